@@ -335,11 +335,6 @@ func TestMendedOfAllOthers(t *testing.T) {
 		for k := range l {
 			others := slices.Delete(slices.Clone(l), k, k+1)
 			got, ok := impl.MendPiece(l, k)
-			if len(others) == 0 {
-				// No pieces have no parity.
-				wantNoBytes(t, "MendPiece of one alone", got, ok)
-				continue
-			}
 			wantBytes(t, "MendPiece", got, ok, oddBits(len(l[0]), others))
 		}
 	}
@@ -357,6 +352,31 @@ func TestMendedByHand(t *testing.T) {
 	wantBytes(t, "MendPiece", got, ok, "a")
 	got, ok = impl.MendPiece([]string{"", ""}, 1)
 	wantBytes(t, "MendPiece", got, ok, "")
+}
+
+func TestOnePieceAloneIsMended(t *testing.T) {
+	for long := range impl.MaxPiece + 1 {
+		zeros := strings.Repeat("\x00", long)
+		// It is a whole of its own, and comes back like any other piece that is lost.
+		wantWhole(t, []string{zeros}, true)
+		for _, piece := range []string{zeros, strings.Repeat("\xff", long), counted(long, 97), counted(long, 240)} {
+			got, ok := impl.MendPiece([]string{piece}, 0)
+			wantBytes(t, "MendPiece of one alone", got, ok, zeros)
+			for _, k := range append([]int{1, 2, impl.MaxPieces}, wrongInts...) {
+				got, ok := impl.MendPiece([]string{piece}, k)
+				wantNoBytes(t, "MendPiece of one alone", got, ok)
+			}
+		}
+	}
+	for _, l := range [][]string{nil, {}, {counted(impl.MaxPiece+1, 0)}} {
+		got, ok := impl.MendPiece(l, 0)
+		wantNoBytes(t, "MendPiece", got, ok)
+		got, ok = impl.ParityOf(l)
+		wantNoBytes(t, "ParityOf", got, ok)
+	}
+	// A good one that lies behind the list's length is none of the others.
+	got, ok := impl.MendPiece([]string{"ab", "cd"}[:1], 0)
+	wantBytes(t, "MendPiece of one alone", got, ok, "\x00\x00")
 }
 
 func TestOneTurnedBitIsNotWhole(t *testing.T) {
